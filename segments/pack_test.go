@@ -133,6 +133,37 @@ func TestPackOfBlocks(t *testing.T) {
 	}
 }
 
+// pieces makes k bytes, most of them pieces of those ahead: copies then stand within a block too, and a whole repeat may begin in the midst of one.
+func (s *source) pieces(k int) []byte {
+	var b []byte
+	for len(b) < k {
+		if len(b) < 8 || s.below(3) == 0 {
+			b = append(b, byte(s.below(256)))
+			continue
+		}
+		n := 4 + s.below(4)
+		from := s.below(len(b) - n + 1)
+		b = append(b, b[from:from+n]...)
+	}
+	return b[:k]
+}
+
+func TestPackOfBlocksOfPieces(t *testing.T) {
+	s := source(6)
+	for range 20000 {
+		k := 80 + s.below(21)
+		n := 200 + s.below(1800)
+		block := s.pieces(k)
+		if p := checkPacked(t, "pieces", bytes.Repeat(block, n/k+1)[:n]); p > 110+n/30 {
+			t.Fatalf("P4: %d bytes of the block %x are packed into %d", n, block, p)
+		}
+	}
+	block := fromHex(t, "785af15c43478ce85c478ce85cf15c43475c43478ce85c785af15cf55cf15c43475c435cf55cf15c434779f6475c43478c4779f6475c79f6475c43478ce85cf15c435c435cf55cf12ff15c435c435c4347797a5c785af15cf55c785af1")
+	if p := len(Pack(bytes.Repeat(block, 20)[:1617])); p > 110+1617/30 {
+		t.Errorf("P4: 1617 bytes of a block of pieces are packed into %d", p)
+	}
+}
+
 func FuzzPack(f *testing.F) {
 	f.Add([]byte{})
 	f.Add([]byte("abcabcabcabc"))
