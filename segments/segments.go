@@ -3,6 +3,7 @@ package segments
 
 import (
 	"segments/api"
+	"segments/frames"
 	"segments/packing"
 )
 
@@ -13,10 +14,10 @@ func Pack(data []byte) []byte { return packing.Pack(data) }
 func Unpack(packed []byte, most int) ([]byte, error) { return packing.Unpack(packed, most) }
 
 // Encode makes a frame of a batch (P5).
-func Encode(b api.Batch) ([]byte, error) { return nil, nil }
+func Encode(b api.Batch) ([]byte, error) { return frames.Encode(b) }
 
 // Decode reads a frame; how many bytes it has (P6).
-func Decode(b []byte) (api.Batch, int, error) { return api.Batch{}, 0, nil }
+func Decode(b []byte) (api.Batch, int, error) { return frames.Decode(b) }
 
 // Log is records by their offsets.
 type Log struct{}
