@@ -4,57 +4,73 @@ const (
 	// mostTries is how many places are tried for a copy. All that stand at most 100 ahead must be among them, for one of them is a whole repeat of data that repeats in up to 100 bytes (P4); more would cost time.
 	mostTries = 128
 
-	hashBits = 12
-	window   = mostDistance + 1
+	window = mostDistance + 1
 )
 
-// finder finds bytes that stood ahead in data. Places whose next bytes have the same hash are a chain, from the last one back.
+// word is the bytes that a copy has at the least.
+type word [leastCopy]byte
+
+// finder finds bytes that stood ahead in data. Places at which the same word stands are a chain, from the last one back.
 type finder struct {
 	data []byte
-	last [1 << hashBits]int // of each hash: the last place noted and 1; 0 is none
-	back []uint16           // of each place within the window: how far back the next one of its chain stands; 0 is none
+	last map[word]int // of each word: the last place noted, if a copy reaches it from the next place
+	back []uint16     // of each place within the window: how far back the next one of its chain stands; 0 is none
 }
 
 func newFinder(data []byte) *finder {
-	return &finder{data: data, back: make([]uint16, min(len(data), window))}
+	return &finder{data: data, last: map[word]int{}, back: make([]uint16, min(len(data), window))}
 }
 
-// hash is of the leastCopy bytes that stand there.
-func (f *finder) hash(at int) uint32 {
-	b := f.data[at : at+leastCopy]
-	word := uint32(b[0])<<24 | uint32(b[1])<<16 | uint32(b[2])<<8 | uint32(b[3])
-	return word * 2654435761 >> (32 - hashBits)
+// word is the one that stands there; ok is false if bytes of it are missing.
+func (f *finder) word(at int) (w word, ok bool) {
+	if at+leastCopy > len(f.data) {
+		return word{}, false
+	}
+	return word(f.data[at:]), true
 }
-
-// hashed tells whether there are bytes enough for a hash, and so for a copy.
-func (f *finder) hashed(at int) bool { return at+leastCopy <= len(f.data) }
 
 // note takes the places from one up to another into their chains.
 func (f *finder) note(from, to int) {
-	for at := from; at < to && f.hashed(at); at++ {
-		h := f.hash(at)
-		f.back[at%window] = f.reach(at, f.last[h])
-		f.last[h] = at + 1
+	for at := from; at < to; at++ {
+		w, ok := f.word(at)
+		if !ok {
+			break
+		}
+		f.back[at%window] = f.reach(at, w)
+		f.last[w] = at
+		f.forget(at + 1 - window)
 	}
 }
 
-// reach is the distance to a place that is told with 1 added; 0, if there is none or it is too far.
-func (f *finder) reach(at, mark int) uint16 {
-	distance := at - (mark - 1)
-	if mark == 0 || distance > mostDistance {
+// forget takes a place out that no copy reaches from the next one on. So there are never more words than places in the window.
+func (f *finder) forget(at int) {
+	if at < 0 {
+		return
+	}
+	w, _ := f.word(at)
+	if f.last[w] == at {
+		delete(f.last, w)
+	}
+}
+
+// reach is the distance from a place to the last one noted at which the word stands; 0, if there is none.
+func (f *finder) reach(at int, w word) uint16 {
+	last, ok := f.last[w]
+	if !ok {
 		return 0
 	}
-	return uint16(distance)
+	return uint16(at - last)
 }
 
 // longest finds the longest copy for the bytes from at on, the nearest one of several; its count is 0 if there is none.
 func (f *finder) longest(at int) (distance, count int) {
-	if !f.hashed(at) {
+	w, ok := f.word(at)
+	if !ok {
 		return 0, 0
 	}
 	most := min(len(f.data)-at, mostCopy)
 	far := 0
-	next := f.reach(at, f.last[f.hash(at)])
+	next := f.reach(at, w)
 	for range mostTries {
 		far += int(next)
 		if next == 0 || far > mostDistance {

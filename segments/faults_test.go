@@ -2,6 +2,7 @@ package segments
 
 import (
 	"bytes"
+	"errors"
 	"testing"
 
 	"segments/api"
@@ -181,6 +182,176 @@ func TestFate(t *testing.T) {
 		}
 		f.d.Fail(0, 0)
 		f.checkFetch()
+	}
+}
+
+// TestFateOfEachOperation plays the same calls again and again: each time the disk begins to fail at another operation, and crashes in another way.
+func TestFateOfEachOperation(t *testing.T) {
+	for after := range 90 {
+		for way := range 12 {
+			s := source(7)
+			f := &fate{t: t, s: &s, d: api.NewDisk(1 << 20)}
+			l, err := Open(f.d, least)
+			if err != nil {
+				t.Fatal(err)
+			}
+			f.l = l
+			s = source(way)
+			f.d.Fail(after, []int{1, 2, 3, 1 << 20}[way%4])
+			for range 4 {
+				f.append()
+				f.append()
+				f.flush()
+				f.append()
+				f.trim()
+				f.append()
+				f.closeAndOpen()
+			}
+			f.crash()
+			f.append()
+			f.crash()
+		}
+	}
+}
+
+// pending tells whether a fault is still to come, at the next operation. (That takes it away.)
+func pending(d *api.Disk) bool {
+	_, err := d.Size("no such file")
+	return api.Tell(err) == api.ErrDisk
+}
+
+// checkFault holds that a call answers a fault just if it met one.
+func checkFault(t *testing.T, what string, met bool, err error) {
+	t.Helper()
+	var at *api.FileError
+	switch {
+	case !met && err != nil:
+		t.Fatalf("P1: %s met no fault, and answers %v", what, err)
+	case met && api.Tell(err) != api.ErrDisk:
+		t.Fatalf("P15: %s met a fault, and answers %v", what, err)
+	case met && !errors.As(err, &at):
+		t.Fatalf("P15: %s met a fault, and the file is not told: %v", what, err)
+	}
+}
+
+// deed is a call on a log, and what it does to the model.
+type deed struct {
+	what  string
+	call  func(w *world) error
+	model func(m *model)
+}
+
+func nothing(*model) {}
+
+// deeds are all calls that use the disk, in the ways in which they use it.
+func deeds() []deed {
+	appended := func(what string, records []api.Record) deed {
+		return deed{what,
+			func(w *world) error { _, err := w.l.Append(records, false); return err },
+			func(m *model) { m.append(records, false) },
+		}
+	}
+	return []deed{
+		appended("Append", valued(1, 21)),
+		appended("Append to a new segment", valued(1, 90)),
+		{"Fetch", func(w *world) error { _, err := w.l.Fetch(7, 1<<20); return err }, nothing},
+		{"At", func(w *world) error { _, err := w.l.At(4); return err }, nothing},
+		{"Trim", func(w *world) error { return w.l.Trim(9) }, func(m *model) { m.trim(9) }},
+		{"Flush", func(w *world) error { return w.l.Flush() }, nothing},
+	}
+}
+
+// TestFaultAtEachOperation: a call answers a fault at whichever of its operations, has changed nothing then, and does its work if it is made again.
+func TestFaultAtEachOperation(t *testing.T) {
+	for _, c := range deeds() {
+		met := true
+		for after := 0; met; after++ {
+			w := newWorld(t, least)
+			w.fill()
+			w.d.Fail(after, 1)
+			err := c.call(w)
+			met = !pending(w.d)
+			checkFault(t, c.what, met, err)
+			if !met && after == 0 {
+				t.Fatalf("%s does not use the disk", c.what)
+			}
+			if met {
+				if c.what == "Trim" { // some segments may be gone
+					first, _, _ := w.l.Bounds()
+					w.m.trim(first)
+				}
+				w.checkAll()
+				checkTold(t, "P15: "+c.what+" made again", c.call(w), api.OK)
+			}
+			c.model(w.m)
+			w.checkAll()
+			checkTold(t, "P15: Flush behind a fault", w.l.Flush(), api.OK)
+			w.checkSafe(c.what)
+		}
+	}
+}
+
+// TestFaultWithinClose: the log is closed with an error too, and nothing is gone.
+func TestFaultWithinClose(t *testing.T) {
+	met := true
+	for after := 0; met; after++ {
+		w := newWorld(t, least)
+		w.fill()
+		w.d.Fail(after, 1)
+		err := w.l.Close()
+		met = !pending(w.d)
+		checkFault(t, "Close", met, err)
+		w.checkClosed()
+		w.open(least)
+		w.checkAll()
+	}
+}
+
+// TestSegmentThatStays: a new segment, whose frame the disk refused, and which it does not let go either, is the last one then.
+func TestSegmentThatStays(t *testing.T) {
+	for _, again := range []bool{false, true} {
+		w := newWorld(t, least)
+		w.append(valued(1, 60), false)
+		w.d.Fail(1, 2)
+		_, err := w.l.Append(valued(2, 60), false)
+		checkTold(t, "P15: Append", err, api.ErrDisk)
+		w.m.list = append(w.m.list, modelSegment{number: 1})
+		if again {
+			checkTold(t, "P12: Close", w.l.Close(), api.OK)
+			w.open(least)
+		}
+		w.checkAll()
+		w.append(valued(3, 21), false)
+		w.checkAll()
+		w.append(valued(4, 90), false)
+		w.trim(1)
+		w.checkAll()
+	}
+}
+
+// TestRoom: Append is refused just where the disk has no room for its frame, and changes nothing then.
+func TestRoom(t *testing.T) {
+	for room := range 400 {
+		w := &world{t, api.NewDisk(room), nil, newModel(least)}
+		w.open(least)
+		used := 0
+		for i := range 12 {
+			size := 21 + i*i%40
+			if used+size <= room {
+				w.append(valued(int64(i), size), false)
+				used += size
+				continue
+			}
+			k, err := w.l.Append(valued(int64(i), size), false)
+			checkTold(t, "P15: Append to a full disk", err, api.ErrRoom)
+			if k != 0 {
+				t.Fatalf("P1: Append answers %d beside an error", k)
+			}
+		}
+		w.checkFiles()
+		w.open(least)
+		w.checkFiles()
+		checkTold(t, "P12: Close", w.l.Close(), api.OK)
 	}
 }
 

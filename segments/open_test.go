@@ -223,35 +223,64 @@ func TestOpenBesideOtherFiles(t *testing.T) {
 	}
 }
 
-// TestCrashWithinOpen: Open that a crash comes into leaves a disk of which the same is read.
-func TestCrashWithinOpen(t *testing.T) {
+// spoiltDisks are files of which not all is right, and some of which all is.
+func spoiltDisks(t *testing.T) map[string]map[string][]byte {
+	t.Helper()
 	files := wholeFiles(t)
 	names := slices.Sorted(maps.Keys(files))
 	first, second := files[names[0]], files[names[1]]
-	foul := append(bytes.Clone(first), 'x')
-	for what, files := range map[string]map[string][]byte{
+	return map[string]map[string][]byte{
 		"nothing":                 {},
 		"whole files":             files,
 		"a torn first segment":    with(files, names[0], first[:len(first)-1]),
-		"a longer first segment":  with(files, names[0], foul),
+		"a longer first segment":  with(files, names[0], append(bytes.Clone(first), 'x')),
 		"a longer second segment": with(files, names[1], append(bytes.Clone(second), 0)),
 		"a number between":        with(files, "00000000000000000002.log", nil),
 		"a number between others": with(files, "00000000000000000005.log", nil),
 		"several numbers between": with(with(files, "00000000000000000001.log", first), "00000000000000000003.log", second),
-	} {
+		"no segment":              {"x": first, "99999999999999999999.log": second},
+	}
+}
+
+// TestCrashWithinOpen: Open that a crash comes into leaves a disk of which the same is read, however often that is.
+func TestCrashWithinOpen(t *testing.T) {
+	for what, files := range spoiltDisks(t) {
 		for after := range 12 {
 			for dir := range uint(6) {
 				w := &world{t, diskOf(t, files).Copy(), nil, readModel(least, files)}
-				w.d.Fail(after, 1000)
-				_, err := Open(w.d, least)
-				if n := api.Tell(err); n != api.OK && n != api.ErrDisk {
-					t.Fatalf("P15: Open over a disk that fails: %v", err)
+				for again := range uint(3) {
+					w.d.Fail(after+int(again), 1000)
+					_, err := Open(w.d, least)
+					if n := api.Tell(err); n != api.OK && n != api.ErrDisk {
+						t.Fatalf("P15: Open over a disk that fails: %v", err)
+					}
+					w.d.Crash(dir+again, 0)
 				}
-				w.d.Crash(dir, 0)
 				w.open(least)
 				if got, want := segmentsAlone(t, w.d), w.m.files(); got != want {
-					t.Fatalf("P13: %s: behind a crash within Open (%d, %d) the files are\n%swant\n%s", what, after, dir, got, want)
+					t.Fatalf("P13: %s: behind crashes within Open (%d, %d) the files are\n%swant\n%s", what, after, dir, got, want)
 				}
+			}
+		}
+	}
+}
+
+// TestFaultWithinOpen: Open that meets a fault answers it and gives no log; the next one reads the same.
+func TestFaultWithinOpen(t *testing.T) {
+	for what, files := range spoiltDisks(t) {
+		met := true
+		for after := 0; met; after++ {
+			w := &world{t, diskOf(t, files), nil, readModel(least, files)}
+			w.d.Fail(after, 1)
+			l, err := Open(w.d, least)
+			met = !pending(w.d)
+			checkFault(t, what+": Open", met, err)
+			if (l == nil) != met {
+				t.Fatalf("P1: %s: a log beside a fault, or none without: %v", what, err)
+			}
+			w.open(least)
+			if got, want := segmentsAlone(t, w.d), w.m.files(); got != want {
+				t.Fatalf("P13: %s: behind a fault within Open (%d) the files are\n%swant\n%s", what, after, got, want)
 			}
 		}
 	}

@@ -84,6 +84,8 @@ func TestPackOfFarRepeats(t *testing.T) {
 		if apart <= 65535 && n > apart+apart/128+100 {
 			t.Errorf("P4: what stands %d ahead is not told by copies: %d bytes", apart, n)
 		}
+		copy(data[1000:], data[:10]) // a shorter repeat, which is nearer
+		checkPacked(t, "near and far repeats", data)
 	}
 }
 
