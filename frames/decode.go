@@ -44,7 +44,7 @@ func readBody(body []byte) (api.Batch, bool) {
 	if form == packedForm {
 		r = unpacked(r)
 	}
-	records := readRecords(r, int(count))
+	records := ReadRecords(r, int(count))
 	if !r.Ended() {
 		return api.Batch{}, false
 	}
@@ -62,8 +62,8 @@ func unpacked(r *numbers.Reader) *numbers.Reader {
 	return inner
 }
 
-// readRecords reads so many records. If the reader is bad in the end they are worth nothing.
-func readRecords(r *numbers.Reader, count int) []api.Record {
+// ReadRecords reads so many records, as P5 writes them. If the reader is bad in the end they are worth nothing; it is so, too, if a key or a value has more than MaxBytes bytes. There is room made for all of them ahead, so count must be bounded.
+func ReadRecords(r *numbers.Reader, count int) []api.Record {
 	records := make([]api.Record, 0, count)
 	time := int64(0)
 	for range count {

@@ -150,13 +150,7 @@ func TestAppendRefuses(t *testing.T) {
 
 // TestLastOffsets: offsets are below MaxOffset, and a segment may have that number itself.
 func TestLastOffsets(t *testing.T) {
-	w := newWorld(t, least)
-	d := api.NewDisk(10000)
-	if err := d.Create(fmt.Sprintf("%020d.log", int64(api.MaxOffset-3))); err != nil {
-		t.Fatal(err)
-	}
-	w.d, w.m.list[0].number = d, api.MaxOffset-3
-	w.open(least)
+	w := newWorldFrom(t, api.MaxOffset-3)
 	refuse := func(n int, want api.Errno) {
 		t.Helper()
 		k, err := w.l.Append(many(n, 10), false)
@@ -385,6 +379,7 @@ func (w *world) checkClosed() {
 	}
 	checkTold(t, "P12: Flush on a closed log", w.l.Flush(), api.ErrClosed)
 	checkTold(t, "P12: Close on a closed log", w.l.Close(), api.ErrClosed)
+	w.checkServeClosed()
 	if filesOf(t, w.d) != files {
 		t.Error("P12: a closed log changed its disk")
 	}

@@ -153,6 +153,16 @@ func newWorld(t *testing.T, o api.Options) *world {
 	return w
 }
 
+// newWorldFrom makes one whose first record gets another offset than 0.
+func newWorldFrom(t *testing.T, first int64) *world {
+	t.Helper()
+	w := newWorld(t, least)
+	w.d, w.m.list[0].number = api.NewDisk(1<<20), first
+	writeFile(t, w.d, fmt.Sprintf("%020d.log", first), nil)
+	w.open(least)
+	return w
+}
+
 func (w *world) open(o api.Options) {
 	w.t.Helper()
 	l, err := Open(w.d, o)

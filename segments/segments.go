@@ -6,6 +6,7 @@ import (
 	"segments/frames"
 	"segments/packing"
 	"segments/parts"
+	"segments/requests"
 	"segments/store"
 )
 
@@ -129,4 +130,10 @@ func (l *Log) Close() error {
 }
 
 // Serve answers a request (P16).
-func (l *Log) Serve(request []byte) []byte { return nil }
+func (l *Log) Serve(request []byte) []byte {
+	asked, err := requests.Read(request)
+	if err != nil {
+		return requests.Answer(nil, err)
+	}
+	return requests.Answer(l.answer(asked))
+}
